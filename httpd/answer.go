@@ -7,6 +7,7 @@ import (
 	"strings"
 
 	"blotter/api"
+	"blotter/header"
 )
 
 // switching is the status behind which no HTTP comes, and which has no body.
@@ -88,7 +89,7 @@ func statusLine(status int) string {
 
 // isNoAnswers tells whether an answer can't have a header.
 func isNoAnswers(h api.Header) bool {
-	return !isToken(h.Name) || small(h.Name) != h.Name || h.Name == contentLength || !isValue(h.Value)
+	return !isToken(h.Name) || header.Small(h.Name) != h.Name || h.Name == contentLength || !isValue(h.Value)
 }
 
 // Read is the answer with which bytes begin, and how many it has.

@@ -5,6 +5,7 @@ import (
 	"strings"
 
 	"blotter/api"
+	"blotter/header"
 )
 
 const (
@@ -87,18 +88,18 @@ func readHeaders(lines []string) ([]api.Header, int) {
 		if !ok || !isToken(name) || !isValue(value) {
 			return nil, badRequest
 		}
-		headers = append(headers, api.Header{Name: small(name), Value: value})
+		headers = append(headers, api.Header{Name: header.Small(name), Value: value})
 	}
 	return headers, whole
 }
 
 // readForm is how the body comes, by headers whose names are in small letters.
 func readForm(headers []api.Header) (bodyForm, int) {
-	encodings := valuesOf(headers, "transfer-encoding")
-	hosts := valuesOf(headers, "host")
-	lengths := valuesOf(headers, "content-length")
+	encodings := header.Values(headers, "transfer-encoding")
+	hosts := header.Values(headers, "host")
+	lengths := header.Values(headers, "content-length")
 	switch {
-	case len(encodings) > 1 || len(encodings) == 1 && small(encodings[0]) != "chunked":
+	case len(encodings) > 1 || len(encodings) == 1 && header.Small(encodings[0]) != "chunked":
 		return bodyForm{}, notBuilt
 	case len(hosts) != 1 || hosts[0] == "":
 		return bodyForm{}, badRequest

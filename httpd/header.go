@@ -5,37 +5,25 @@ import (
 	"strings"
 
 	"blotter/api"
+	"blotter/header"
 )
 
 const maxToken = 64
 
 // Keeps tells whether the connection is kept behind a request.
 func Keeps(r api.Request) bool {
-	return !slices.ContainsFunc(r.Headers, func(h api.Header) bool {
-		return small(h.Name) == "connection" && small(h.Value) == "close"
+	return !slices.ContainsFunc(header.Values(r.Headers, "connection"), func(value string) bool {
+		return header.Small(value) == "close"
 	})
 }
 
 // Find is a header's value.
 func Find(l []api.Header, name string) (string, bool) {
-	name = small(name)
-	for _, h := range l {
-		if small(h.Name) == name {
-			return h.Value, true
-		}
+	values := header.Values(l, name)
+	if len(values) == 0 {
+		return "", false
 	}
-	return "", false
-}
-
-// valuesOf is the values of all headers of just that name.
-func valuesOf(headers []api.Header, name string) []string {
-	var values []string
-	for _, h := range headers {
-		if h.Name == name {
-			values = append(values, h.Value)
-		}
-	}
-	return values
+	return values[0], true
 }
 
 // appendHeader writes a header's line.
@@ -72,14 +60,3 @@ func isDigit(c byte) bool { return '0' <= c && c <= '9' }
 func isSeen(c byte) bool { return 33 <= c && c <= 126 }
 
 func isBlank(c byte) bool { return c == ' ' || c == '\t' }
-
-// small is a text with small letters for its capitals. The library's way would change other characters too.
-func small(s string) string {
-	b := []byte(s)
-	for i, c := range b {
-		if isCapital(c) {
-			b[i] = c - 'A' + 'a'
-		}
-	}
-	return string(b)
-}
