@@ -7,6 +7,7 @@ import (
 	"blotter/api"
 	"blotter/authtok"
 	"blotter/jsonx"
+	"blotter/object"
 	"blotter/wire"
 )
 
@@ -105,13 +106,13 @@ const (
 
 // Print is an issue's value.
 func (x Issue) Print() string {
-	return object(ownerName, x.Owner, statusName, x.Status, titleName, x.Title)
+	return printed(object.Text(ownerName, x.Owner), object.Text(statusName, x.Status), object.Text(titleName, x.Title))
 }
 
 // ReadIssue is the issue that a value is, if it is one.
 func ReadIssue(value string) (Issue, bool) {
 	v, _, _ := jsonx.Parse(value)
-	x := Issue{Owner: textOf(v, ownerName), Status: textOf(v, statusName), Title: textOf(v, titleName)}
+	x := Issue{Owner: object.TextIn(v, ownerName), Status: object.TextIn(v, statusName), Title: object.TextIn(v, titleName)}
 	may := IsNameOrNone(x.Owner) && IsStatus(x.Status) && IsWords(x.Title)
 	// Only the one form in which it is printed is an issue's, so that is held against the value.
 	if !may || x.Print() != value {
@@ -124,12 +125,14 @@ func ReadIssue(value string) (Issue, bool) {
 type Comment struct{ By, Text string }
 
 // Print is a comment's value.
-func (x Comment) Print() string { return object(byName, x.By, textName, x.Text) }
+func (x Comment) Print() string {
+	return printed(object.Text(byName, x.By), object.Text(textName, x.Text))
+}
 
 // ReadComment is the comment that a value is, if it is one.
 func ReadComment(value string) (Comment, bool) {
 	v, _, _ := jsonx.Parse(value)
-	x := Comment{By: textOf(v, byName), Text: textOf(v, textName)}
+	x := Comment{By: object.TextIn(v, byName), Text: object.TextIn(v, textName)}
 	may := authtok.Name(x.By) && IsWords(x.Text)
 	if !may || x.Print() != value {
 		return Comment{}, false
@@ -137,19 +140,8 @@ func ReadComment(value string) (Comment, bool) {
 	return x, true
 }
 
-// object is the print of an object of texts: a name and a text, one behind the other.
-func object(members ...string) string {
-	v := api.Json{Kind: api.JObject}
-	for i := 0; i+1 < len(members); i += 2 {
-		v.Names = append(v.Names, members[i])
-		v.Items = append(v.Items, api.Json{Kind: api.JText, Text: members[i+1]})
-	}
-	s, _ := jsonx.Print(v)
+// printed is the one print of an object of these members.
+func printed(members ...object.Member) string {
+	s, _ := jsonx.Print(object.Of(members...))
 	return s
-}
-
-// textOf is the text of that name in an object, empty where there is none.
-func textOf(v api.Json, name string) string {
-	item, _ := jsonx.Get(v, name)
-	return item.Text
 }
