@@ -2,6 +2,7 @@
 package history
 
 import (
+	"maps"
 	"slices"
 	"strings"
 
@@ -11,15 +12,14 @@ import (
 
 // History is logged mutations, one behind the other, of each client with the IDs 1, 2, 3 ..
 type History struct {
-	log  []api.Logged
-	last map[string]int // by clients
-	// The state's entries, by issues: a mutation looks at those of its own one alone, and changes no others.
-	issues map[string][]api.Entry
+	log    []api.Logged
+	last   map[string]int // by clients
+	issues issues
 }
 
 // New is one without mutations.
 func New() *History {
-	return &History{last: map[string]int{}, issues: map[string][]api.Entry{}}
+	return &History{last: map[string]int{}, issues: issues{}}
 }
 
 // Top is how many mutations there are.
@@ -47,40 +47,39 @@ func (h *History) Log(from, most int) []api.Logged {
 	return slices.Clone(behind[:min(most, len(behind))])
 }
 
-// State is what the mutations lead to, by rising keys.
-func (h *History) State() []api.Entry {
-	var out []api.Entry
-	for _, own := range h.issues {
-		out = append(out, own...)
+// State is what the mutations lead to, and behind them those that wait, which it does not take; by rising keys.
+func (h *History) State(waiting ...api.Logged) []api.Entry {
+	seen := maps.Clone(h.issues)
+	for _, x := range waiting {
+		seen.do(x)
 	}
-	slices.SortFunc(out, func(a, b api.Entry) int { return strings.Compare(a.Key, b.Key) })
-	return out
+	return seen.entries()
 }
 
 // GoesOn tells whether a mutation may come next, by its ID.
 func (h *History) GoesOn(x api.Logged) bool { return x.ID == h.last[x.Client]+1 }
 
-// Changes is what a mutation would write to the state; one that does not fit there writes nothing.
-func (h *History) Changes(x api.Logged) []api.Op {
-	ops, _ := tracker.Changes(h.issues[x.M.Issue], x.Client, x.M)
-	return ops
+// Changes is what a mutation would write to the state behind those that wait, or why it would do nothing.
+func (h *History) Changes(x api.Logged, waiting ...api.Logged) ([]api.Op, error) {
+	own := issues{x.M.Issue: h.issues[x.M.Issue]}
+	for _, w := range waiting {
+		if w.M.Issue == x.M.Issue {
+			own.do(w)
+		}
+	}
+	return tracker.Changes(own[x.M.Issue], x.Client, x.M)
 }
 
 // Take puts a mutation that goes on behind the others, and does it.
 func (h *History) Take(x api.Logged) {
-	x = ownTexts(x)
+	x = OwnTexts(x)
 	h.log = append(h.log, x)
 	h.last[x.Client] = x.ID
-	own := tracker.Apply(h.issues[x.M.Issue], h.Changes(x))
-	if len(own) == 0 {
-		delete(h.issues, x.M.Issue)
-		return
-	}
-	h.issues[x.M.Issue] = own
+	h.issues.do(x)
 }
 
-// ownTexts is the same mutation in texts that nobody else keeps.
-func ownTexts(x api.Logged) api.Logged {
+// OwnTexts is the same mutation in texts that nobody else keeps.
+func OwnTexts(x api.Logged) api.Logged {
 	x.Client = strings.Clone(x.Client)
 	x.M.Issue = strings.Clone(x.M.Issue)
 	x.M.Name = strings.Clone(x.M.Name)

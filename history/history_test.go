@@ -50,9 +50,9 @@ func TestP14_6History(t *testing.T) {
 			if !h.GoesOn(x) {
 				t.Fatalf("%v does not go on", x)
 			}
-			ops, _ := tracker.Changes(state, x.Client, x.M)
-			if got := h.Changes(x); !slices.Equal(got, ops) {
-				t.Fatalf("%v writes %v, want %v", x, got, ops)
+			ops, why := tracker.Changes(state, x.Client, x.M)
+			if got, err := h.Changes(x); err != why || !slices.Equal(got, ops) {
+				t.Fatalf("%v writes %v, %v, want %v, %v", x, got, err, ops, why)
 			}
 			h.Take(x)
 			last[x.Client] = x.ID
@@ -117,6 +117,37 @@ func TestP14_2OwnTexts(t *testing.T) {
 	for _, pair := range [][2]string{{kept.Client, x.Client}, {kept.M.Issue, x.M.Issue}, {kept.M.Name, x.M.Name}, {kept.M.Text, x.M.Text}} {
 		if unsafe.StringData(pair[0]) == unsafe.StringData(pair[1]) {
 			t.Errorf("%q is the one that was handed in", pair[0])
+		}
+	}
+}
+
+// Mutations that wait are done behind the others, and are not taken.
+func TestP15_6Waiting(t *testing.T) {
+	r := rand.New(rand.NewSource(156))
+	for range 60 {
+		h := history.New()
+		var state []api.Entry
+		for i := range r.Intn(60) {
+			x := api.Logged{Client: "c1", ID: i + 1, M: mutation(r)}
+			h.Take(x)
+			state, _ = tracker.Do(state, x.Client, x.M)
+		}
+		was := state
+		var waiting []api.Logged
+		for i := range 12 {
+			x := api.Logged{Client: "c" + strconv.Itoa(r.Intn(2)), ID: i + 1, M: mutation(r)}
+			ops, why := tracker.Changes(state, x.Client, x.M)
+			if got, err := h.Changes(x, waiting...); err != why || !slices.Equal(got, ops) {
+				t.Fatalf("%v writes %v, %v, want %v, %v", x, got, err, ops, why)
+			}
+			waiting = append(waiting, x)
+			state, _ = tracker.Do(state, x.Client, x.M)
+			if got := h.State(waiting...); !slices.Equal(got, state) {
+				t.Fatalf("%v lead to %v, want %v", waiting, got, state)
+			}
+			if got := h.State(); !slices.Equal(got, was) {
+				t.Fatalf("it took %v: %v", waiting, got)
+			}
 		}
 	}
 }

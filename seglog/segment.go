@@ -7,6 +7,7 @@ import (
 
 	"blotter/api"
 	"blotter/disk"
+	"blotter/noughts"
 	"blotter/wire"
 )
 
@@ -60,10 +61,7 @@ const (
 )
 
 // nameOf is the name of the file of the segment that begins with a number.
-func nameOf(first int) string {
-	digits := strconv.Itoa(first)
-	return namePrefix + strings.Repeat("0", nameDigits-len(digits)) + digits
-}
+func nameOf(first int) string { return namePrefix + noughts.Ahead(first, nameDigits) }
 
 // numberOf is the number with which the segment of that file's name begins, if it is one's.
 func numberOf(name string) (int, bool) {

@@ -2,12 +2,12 @@ package sequencer
 
 import (
 	"strconv"
-	"strings"
 
 	"blotter/api"
 	"blotter/history"
 	"blotter/kvstore"
 	"blotter/msg"
+	"blotter/noughts"
 )
 
 const (
@@ -18,10 +18,7 @@ const (
 )
 
 // logKey is where the mutation lies that is the v-th.
-func logKey(v int) string {
-	digits := strconv.Itoa(v)
-	return logHead + strings.Repeat("0", logDigits-len(digits)) + digits
-}
+func logKey(v int) string { return logHead + noughts.Ahead(v, logDigits) }
 
 // commitOf is what the store is to write for the mutation that comes next.
 func commitOf(h *history.History, x api.Logged) []api.Op {
@@ -30,7 +27,9 @@ func commitOf(h *history.History, x api.Logged) []api.Op {
 		{Key: logKey(h.Top() + 1), Value: text},
 		{Key: lastHead + x.Client, Value: strconv.Itoa(x.ID)},
 	}
-	for _, op := range h.Changes(x) {
+	// One that does not fit writes nothing to the state, but is in the log.
+	changes, _ := h.Changes(x)
+	for _, op := range changes {
 		op.Key = stateHead + op.Key
 		ops = append(ops, op)
 	}
